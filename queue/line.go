@@ -1,7 +1,7 @@
 package queue
 
-// fewestPlaces is how many places a line keeps at least, once it had some. It is a power of 2, and so each number of
-// places.
+// fewestPlaces is how many places a line keeps at least, once it had some. It is a power of 2, and so is each number
+// of places, since place goes round by a mask.
 const fewestPlaces = 4
 
 // item is one that stands in a line, with the bytes that it told when it was pushed.
