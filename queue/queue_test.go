@@ -66,6 +66,11 @@ func remove[T Sized](q *Queue[T], prio, k int) told[T] {
 	return told[T]{v, 0, ok}
 }
 
+func at[T Sized](q *Queue[T], prio, k int) told[T] {
+	v, ok := q.At(prio, k)
+	return told[T]{v, 0, ok}
+}
+
 // made is an empty one.
 func made[T Sized](t *testing.T, room int) *Queue[T] {
 	t.Helper()
@@ -102,6 +107,12 @@ func stands[T interface {
 	first, count := told[T]{}, 0
 	for prio, line := range want {
 		lists(t, what+": Line", q.Line(prio), line)
+		equal(t, what+": Count", q.Count(prio), len(line))
+		equal(t, what+": At ahead of the first", at(q, prio, -1), told[T]{})
+		for k, v := range line {
+			equal(t, what+": At", at(q, prio, k), told[T]{v, 0, true})
+		}
+		equal(t, what+": At behind the last", at(q, prio, len(line)), told[T]{})
 		count += len(line)
 		if len(line) > 0 {
 			first = told[T]{line[0], prio, true}
@@ -488,6 +499,33 @@ func TestP121Nil(t *testing.T) {
 		equal(t, "Peek", peek(q), told[thing]{})
 		equal(t, "Len", q.Len(), 0)
 		equal(t, "Used", q.Used(), 0)
+	}
+}
+
+// TestCountAndAt: what else is told of a line, of those that are none, and of none at all.
+func TestCountAndAt(t *testing.T) {
+	q := made[thing](t, 100)
+	pushes(t, q, 0, names("a", "b")...)
+	pushes(t, q, 7, names("c")...)
+	for _, some := range []*Queue[thing]{q, {}, nil} {
+		for _, prio := range noPrios {
+			equal(t, "Count of no line", some.Count(prio), 0)
+			for _, k := range []int{0, 1, -1, math.MinInt, math.MaxInt} {
+				equal(t, "At of no line", at(some, prio, k), told[thing]{})
+			}
+		}
+		for _, k := range []int{-1, math.MinInt, 2, 1 << 32, math.MaxInt} {
+			for prio := range api.Prios {
+				equal(t, "no such one", at(some, prio, k), told[thing]{})
+			}
+		}
+	}
+	stands(t, "nothing changed", q, 3, [api.Prios][]thing{0: names("a", "b"), 7: names("c")})
+	for _, none := range []*Queue[thing]{{}, nil} {
+		for prio := range api.Prios {
+			equal(t, "Count", none.Count(prio), 0)
+			equal(t, "At", at(none, prio, 0), told[thing]{})
+		}
 	}
 }
 
