@@ -57,6 +57,11 @@ func TestP132NewMemory(t *testing.T) {
 	_ = append(one[:cap(one)], Item{})
 	items(t, "another answer", other, []Item{a, b, c, last})
 	stands(t, "Waiting was written", p, 138, 1, a, b, c, last)
+	for k := range p.Len() {
+		i, _ := p.At(k)
+		write(i)
+	}
+	stands(t, "At's were written", p, 138, 1, a, b, c, last)
 
 	equal(t, "Double", p.Double(0), true)
 	equal(t, "Double", p.Double(4), true)

@@ -92,10 +92,23 @@ func puts(t *testing.T, p *Port, l ...Item) {
 	}
 }
 
+// at is what At tells.
+func at(p *Port, k int) answer {
+	i, ok := p.At(k)
+	return answer{told(i), ok}
+}
+
 // stands holds all that can be told of a port without a turn: what waits, frames first, and what it uses.
 func stands(t *testing.T, what string, p *Port, used, credits int, want ...Item) {
 	t.Helper()
 	items(t, what+": Waiting", p.Waiting(), want)
+	equal(t, what+": Len", p.Len(), len(want))
+	for k, i := range want {
+		equal(t, what+": At", at(p, k), yes(i))
+	}
+	for _, none := range []int{math.MinInt, -1, len(want), len(want) + 1, math.MaxInt} {
+		equal(t, what+": At of none", at(p, none), no())
+	}
 	equal(t, what+": Used", p.Used(), used)
 	equal(t, what+": Credits", p.Credits(), credits)
 }
